@@ -8,6 +8,7 @@ import (
 
 	"kalends/api"
 	"kalends/civil"
+	"kalends/expand"
 	"kalends/normal"
 	"kalends/rule"
 )
@@ -643,6 +644,43 @@ func TestOfKeepsTheDays(t *testing.T) { // P4.3, by chapter 5's words
 	if changed < 100 {
 		t.Errorf("only %d rules that Of changes", changed)
 	}
+}
+
+// sameDays: has the rule the same first days as its tidy form and its normal form have?
+func sameDays(t *testing.T, r rule.Rule, start civil.Day) {
+	t.Helper()
+	days := func(r rule.Rule) (list []civil.Day) {
+		for d := range expand.Days(r, start) {
+			if len(list) == 60 {
+				break
+			}
+			list = append(list, d)
+		}
+		return list
+	}
+	want := days(normal.Tidy(r))
+	if got := days(normal.Of(r)); !slices.Equal(got, want) {
+		t.Fatalf("%+v from %d: days %v of the normal form, want %v", r, start, got, want)
+	}
+	if got := days(r); !slices.Equal(got, want) {
+		t.Fatalf("%+v from %d: days %v, want those of the tidy form, %v", r, start, got, want)
+	}
+}
+
+func TestNormalFormHasTheSameDays(t *testing.T) { // P4.3, by layer 5
+	eachRule(func(r rule.Rule) {
+		for _, start := range []civil.Day{1, 739000, 739936, civil.Last - 700} {
+			r.Until = min(start+900, civil.Last)
+			sameDays(t, r, start)
+			r.Interval = 1 + int(start%3)
+			sameDays(t, r, start)
+		}
+		// Without end, and with a Count, there may be all days to look through: these are few.
+		r.Interval, r.Until = 2, 0
+		sameDays(t, r, civil.Last-800)
+		r.Count = 3
+		sameDays(t, turned(r), civil.Last-801)
+	})
 }
 
 // Nothing more is promised of these than that there is an end and no panic, that the argument stays, and P4.1.
